@@ -1,7 +1,10 @@
 // Package value: values of kinds, and what commands make of them.
 package value
 
-import "rostrum/api"
+import (
+	"rostrum/api"
+	"rostrum/fresh"
+)
 
 // Do a command with a value (all empty: there is none): the value behind it, and the reply.
 func Do(v api.Value, c api.Command) (api.Value, api.Reply, api.Errno) {
@@ -10,7 +13,7 @@ func Do(v api.Value, c api.Command) (api.Value, api.Reply, api.Errno) {
 	}
 	w, r := answer(v, c)
 	if r.Code != api.OK {
-		return copied(v), api.Reply{Code: r.Code}, api.OK
+		return fresh.Value(v), api.Reply{Code: r.Code}, api.OK
 	}
 	if holdsElements(w.Kind) && elements(w) == 0 {
 		w = api.Value{}
@@ -45,7 +48,7 @@ func answer(v api.Value, c api.Command) (api.Value, api.Reply) {
 	if !fits(v.Kind, c.Kind) {
 		return v, api.Reply{Code: api.ErrType}
 	}
-	return perform(copied(v), c)
+	return perform(fresh.Value(v), c)
 }
 
 // perform a command with a value of its kind, which is the program's own and may be changed.
@@ -83,7 +86,7 @@ func add(v api.Value, n int) (api.Value, api.Reply) {
 
 // names of a value's elements, in their order, as a list of their own.
 func names(v api.Value) []string {
-	l := append([]string(nil), v.Items...)
+	l := fresh.List(v.Items)
 	for _, p := range v.Pairs {
 		l = append(l, p.Field)
 	}
@@ -91,12 +94,4 @@ func names(v api.Value) []string {
 		l = append(l, s.Member)
 	}
 	return l
-}
-
-// copied: a value that shares no list with v, not even the room behind an empty one.
-func copied(v api.Value) api.Value {
-	v.Pairs = append([]api.Pair(nil), v.Pairs...)
-	v.Items = append([]string(nil), v.Items...)
-	v.Scores = append([]api.Score(nil), v.Scores...)
-	return v
 }

@@ -1,0 +1,24 @@
+// Package fresh: what is handed in, once more, in memory of its own.
+package fresh
+
+import "rostrum/api"
+
+// List of its own: not even the room behind an empty one is shared.
+func List[T any](l []T) []T { return append([]T(nil), l...) }
+
+// Value that shares no list with v.
+func Value(v api.Value) api.Value {
+	v.Pairs = List(v.Pairs)
+	v.Items = List(v.Items)
+	v.Scores = List(v.Scores)
+	return v
+}
+
+// Store that shares no list with s.
+func Store(s api.Store) api.Store {
+	s.Entries = List(s.Entries)
+	for i, x := range s.Entries {
+		s.Entries[i].Value = Value(x.Value)
+	}
+	return s
+}
