@@ -22,3 +22,19 @@ func Store(s api.Store) api.Store {
 	}
 	return s
 }
+
+// Reply that shares no list with r.
+func Reply(r api.Reply) api.Reply {
+	r.List = List(r.List)
+	return r
+}
+
+// Machine that shares no list with m.
+func Machine(m api.Machine) api.Machine {
+	m.Store = Store(m.Store)
+	m.Clients = List(m.Clients)
+	for i, x := range m.Clients {
+		m.Clients[i].Reply = Reply(x.Reply)
+	}
+	return m
+}

@@ -46,3 +46,29 @@ func TestCopies(t *testing.T) {
 		t.Errorf("the copy changed with the other one: %+v", got)
 	}
 }
+
+// A copy of a machine is the same, and stays so when the other one is changed.
+func TestCopiesOfMachines(t *testing.T) {
+	make := func() api.Machine {
+		return api.Machine{
+			Store: api.Store{Now: 3, Entries: []api.Entry{{Key: "a", Value: api.Value{Kind: api.List, Items: []string{"x"}}}}},
+			Next:  9,
+			Clients: []api.Client{
+				{Id: 1, Seq: 2, Time: 3, Reply: api.Reply{Code: api.ErrNone, Text: "x", N: 4, List: []string{"x", "y"}}},
+				{Id: 5, Reply: api.Reply{List: []string{"z"}}},
+			},
+		}
+	}
+	m := make()
+	got, reply := fresh.Machine(m), fresh.Reply(m.Clients[0].Reply)
+	if !reflect.DeepEqual(got, m) || !reflect.DeepEqual(reply, m.Clients[0].Reply) {
+		t.Fatalf("%+v and %+v are no copies of %+v", got, reply, m)
+	}
+	m.Store.Entries[0].Value.Items[0] = "!"
+	m.Clients[0].Reply.List[1] = "!"
+	m.Clients[1].Reply.List[0] = "!"
+	m.Clients[1].Id = 6
+	if !reflect.DeepEqual(got, make()) || !reflect.DeepEqual(reply, make().Clients[0].Reply) {
+		t.Errorf("the copies changed with the other one: %+v %+v", got, reply)
+	}
+}

@@ -4,6 +4,7 @@ import (
 	"slices"
 
 	"rostrum/api"
+	"rostrum/bounds"
 )
 
 // Check a value.
@@ -32,18 +33,11 @@ func CheckCommand(c api.Command) api.Errno {
 		return api.ErrForm
 	case !partsMayBe(c):
 		return api.ErrSize
-	case !isCount(c.N):
+	case !bounds.IsCount(c.N):
 		return api.ErrRange
 	}
 	return api.OK
 }
-
-func isText(s string) bool { return len(s) <= api.MaxText }
-
-// isName: may it be a key, or a field?
-func isName(s string) bool { return len(s) >= 1 && len(s) <= api.MaxKey }
-
-func isCount(n int) bool { return n >= -api.MaxCount && n <= api.MaxCount }
 
 // hasForeign: does a value have something that its kind has not?
 func hasForeign(v api.Value) bool {
@@ -58,18 +52,18 @@ func sizesMayBe(v api.Value) bool {
 	if n := elements(v); holdsElements(v.Kind) && (n < 1 || n > api.MaxItems) {
 		return false
 	}
-	wrongPair := func(p api.Pair) bool { return !isName(p.Field) || !isText(p.Text) }
-	wrongItem := func(s string) bool { return !isText(s) }
-	wrongScore := func(s api.Score) bool { return !isText(s.Member) }
-	return isText(v.Text) &&
+	wrongPair := func(p api.Pair) bool { return !bounds.IsKey(p.Field) || !bounds.IsText(p.Text) }
+	wrongItem := func(s string) bool { return !bounds.IsText(s) }
+	wrongScore := func(s api.Score) bool { return !bounds.IsText(s.Member) }
+	return bounds.IsText(v.Text) &&
 		!slices.ContainsFunc(v.Pairs, wrongPair) &&
 		!slices.ContainsFunc(v.Items, wrongItem) &&
 		!slices.ContainsFunc(v.Scores, wrongScore)
 }
 
 func numbersMayBe(v api.Value) bool {
-	wrong := func(s api.Score) bool { return !isCount(s.N) }
-	return isCount(v.Count) && !slices.ContainsFunc(v.Scores, wrong)
+	wrong := func(s api.Score) bool { return !bounds.IsCount(s.N) }
+	return bounds.IsCount(v.Count) && !slices.ContainsFunc(v.Scores, wrong)
 }
 
 func orderMayBe(v api.Value) bool {
@@ -109,7 +103,7 @@ func hasForeignPart(c api.Command) bool {
 
 // partsMayBe: are the key, the field and the text of a command of a length that may be?
 func partsMayBe(c api.Command) bool {
-	return (!hasKey(c.Kind) || isName(c.Key)) &&
-		(!hasField(c.Kind) || isName(c.Field)) &&
-		isText(c.Text)
+	return (!hasKey(c.Kind) || bounds.IsKey(c.Key)) &&
+		(!hasField(c.Kind) || bounds.IsKey(c.Field)) &&
+		bounds.IsText(c.Text)
 }

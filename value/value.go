@@ -3,6 +3,7 @@ package value
 
 import (
 	"rostrum/api"
+	"rostrum/bounds"
 	"rostrum/fresh"
 )
 
@@ -77,7 +78,7 @@ func perform(v api.Value, c api.Command) (api.Value, api.Reply) {
 }
 
 func add(v api.Value, n int) (api.Value, api.Reply) {
-	if !isCount(v.Count + n) {
+	if !bounds.IsCount(v.Count + n) {
 		return v, api.Reply{Code: api.ErrOver}
 	}
 	v.Count += n
